@@ -20,7 +20,7 @@ type level struct {
 	done int
 }
 
-// copying is a copy under way: the lists that are open, one in another, and the copies of them. It goes without calls of its own kind, since kids may be as deep as they like.
+// copying is a copy under way: the lists that are open, one in another, and the copies of them. It goes on in a loop, and not by calling itself, since kids may be as deep as they like.
 type copying struct {
 	open   []level
 	copies map[spot][]api.Json
